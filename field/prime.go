@@ -4,18 +4,18 @@ import "junto/api"
 
 // Is reports whether p is a prime number from 3 to MaxPrime.
 func Is(p uint64) bool {
-	if p < 3 || p > api.MaxPrime {
+	if p < 3 || p > api.MaxPrime || p%2 == 0 {
 		return false
 	}
 	if p < 256 {
-		return !hasDivisor(p)
+		return !hasDivisor(uint32(p))
 	}
-	return !hasSmallFactor(p)
+	return !hasSmallFactor(uint32(p))
 }
 
-// hasDivisor reports whether a number of at least 2 has a divisor other than 1 and itself.
-func hasDivisor(n uint64) bool {
-	for d := uint64(2); d*d <= n; d++ {
+// hasDivisor reports whether an odd number has a divisor other than 1 and itself.
+func hasDivisor(n uint32) bool {
+	for d := uint32(3); d*d <= n; d += 2 {
 		if n%d == 0 {
 			return true
 		}
@@ -23,13 +23,13 @@ func hasDivisor(n uint64) bool {
 	return false
 }
 
-// hasSmallFactor reports whether a prime below 256 divides n. A composite number up to MaxPrime always
-// has such a factor, because MaxPrime is smaller than 257 * 257.
+// hasSmallFactor reports whether an odd prime below 256 divides n. An odd composite number up to MaxPrime
+// always has such a factor, because MaxPrime is smaller than 257 * 257.
 //
-// Every operation of every layer first asks whether its modulus is a prime, so this is written for speed:
-// a test for divisibility by a constant needs no division.
-func hasSmallFactor(n uint64) bool {
-	return n%2 == 0 || n%3 == 0 || n%5 == 0 || n%7 == 0 || n%11 == 0 || n%13 == 0 || n%17 == 0 ||
+// Every operation first asks whether its modulus is a prime, so this is written for speed: a test for
+// divisibility by a constant needs no division.
+func hasSmallFactor(n uint32) bool {
+	return n%3 == 0 || n%5 == 0 || n%7 == 0 || n%11 == 0 || n%13 == 0 || n%17 == 0 ||
 		n%19 == 0 || n%23 == 0 || n%29 == 0 || n%31 == 0 || n%37 == 0 || n%41 == 0 || n%43 == 0 ||
 		n%47 == 0 || n%53 == 0 || n%59 == 0 || n%61 == 0 || n%67 == 0 || n%71 == 0 || n%73 == 0 ||
 		n%79 == 0 || n%83 == 0 || n%89 == 0 || n%97 == 0 || n%101 == 0 || n%103 == 0 || n%107 == 0 ||
