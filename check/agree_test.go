@@ -7,6 +7,7 @@ import (
 	"junto/api"
 	"junto/check"
 	"junto/parse"
+	"junto/sample"
 	"junto/token"
 )
 
@@ -41,7 +42,7 @@ func TestRandomPrograms(t *testing.T) {
 	found := map[api.Errno]int{}
 	for i := range 2500 {
 		m := newMaker(int64(i), []int{20, 100, 1000}[i%3])
-		found[agrees(t, parsed(t, m.program()))]++
+		found[agrees(t, parsed(t, m.Program()))]++
 	}
 	often(t, found, api.OK, api.ErrArg, api.ErrTwice, api.ErrState, api.ErrType, api.ErrName)
 }
@@ -51,7 +52,7 @@ func TestChangedPrograms(t *testing.T) {
 	found := map[api.Errno]int{}
 	for i := range 2500 {
 		m := newMaker(int64(i), 1000000)
-		n := parsed(t, m.program())
+		n := parsed(t, m.Program())
 		for range 1 + m.Intn(2) {
 			m.change(&n)
 		}
@@ -71,10 +72,10 @@ func (m *maker) change(n *api.Node) {
 	case 1:
 		m.node(n, hasNumber).Num = uint64(pick(m, 0, 1, 6, 17, 33))
 	case 2:
-		e := copied(*m.node(n, isExpr))
+		e := sample.Copy(*m.node(n, isExpr))
 		*m.node(n, isExpr) = e
 	case 3:
-		item := copied(*m.node(n, isItem))
+		item := sample.Copy(*m.node(n, isItem))
 		l := m.node(n, isBlock)
 		l.Kids = slices.Insert(l.Kids, m.Intn(len(l.Kids)+1), item)
 	}
@@ -83,7 +84,7 @@ func (m *maker) change(n *api.Node) {
 // node returns a random node with a property, or else the root.
 func (m *maker) node(n *api.Node, holds func(n *api.Node) bool) *api.Node {
 	var l []*api.Node
-	for _, place := range places(n) {
+	for _, place := range sample.Nodes(n) {
 		if holds(place) {
 			l = append(l, place)
 		}
@@ -114,31 +115,12 @@ func isBlock(n *api.Node) bool {
 	return n.Kind == api.NoBlock || n.Kind == api.NoProgram
 }
 
-// places returns all nodes of a tree.
-func places(n *api.Node) []*api.Node {
-	l := []*api.Node{n}
-	for i := range n.Kids {
-		l = append(l, places(&n.Kids[i])...)
-	}
-	return l
-}
-
-// copied returns a tree in new memory.
-func copied(n api.Node) api.Node {
-	kids := make([]api.Node, len(n.Kids))
-	for i, kid := range n.Kids {
-		kids[i] = copied(kid)
-	}
-	n.Kids = kids
-	return n
-}
-
 // Random programs at the limit of the work.
 func TestRandomWork(t *testing.T) {
 	found := map[api.Errno]int{}
 	for i := range 16 {
 		m := newMaker(int64(i), 200)
-		found[agrees(t, parsed(t, used(api.MaxWork-m.Intn(300))+m.program()))]++
+		found[agrees(t, parsed(t, used(api.MaxWork-m.Intn(300))+m.Program()))]++
 	}
 	if found[api.ErrLimit] < 4 || found[api.ErrLimit] > 12 {
 		t.Error(found)

@@ -2,6 +2,7 @@ package check_test
 
 import (
 	"math"
+	"math/rand"
 	"slices"
 	"strings"
 	"testing"
@@ -9,6 +10,7 @@ import (
 	"junto/api"
 	"junto/check"
 	"junto/parse"
+	"junto/sample"
 )
 
 var setup = api.Setup{P: 257, N: 5, T: 1}
@@ -195,4 +197,19 @@ func repeated(n int, separator string, text func(i int) string) string {
 		l = append(l, text(i))
 	}
 	return strings.Join(l, separator)
+}
+
+// maker makes random programs and other choices.
+type maker struct {
+	*rand.Rand
+	*sample.Maker
+}
+
+func newMaker(seed int64, careless int) *maker {
+	r := rand.New(rand.NewSource(seed))
+	return &maker{r, sample.New(r.Intn, careless)}
+}
+
+func pick[T any](m *maker, l ...T) T {
+	return l[m.Intn(len(l))]
 }

@@ -8,6 +8,7 @@ import (
 	"junto/api"
 	"junto/check"
 	"junto/parse"
+	"junto/sample"
 )
 
 // same reports whether two trees are equal.
@@ -19,8 +20,8 @@ func same(m, n api.Node) bool {
 
 func TestArgumentsAreKept(t *testing.T) {
 	for i := range 300 {
-		n := parsed(t, newMaker(int64(i), 50).program())
-		before := copied(n)
+		n := parsed(t, newMaker(int64(i), 50).Program())
+		before := sample.Copy(n)
 		check.Check(setup, n)
 		check.Slots(setup, n)
 		check.Outs(setup, n)
@@ -55,25 +56,12 @@ func TestResultsAreNew(t *testing.T) {
 // The document's P1 and P2: all calls end without a panic, and twice with the same results.
 
 func TestAnyTree(t *testing.T) {
-	texts := []string{"", "a", "b", "in", "num", "bit", "word", "mux", "len", "-", "!", "+", "==", "<", "A", "\xff"}
 	numbers := []uint64{0, 1, 2, 3, 4, 16, 17, 33, 1<<32 - 1, 1 << 32, math.MaxUint64}
 	for i := range 2000 {
 		m := newMaker(int64(i), 10)
-		n := parsed(t, m.program())
+		n := parsed(t, m.Program())
 		for range m.Intn(4) {
-			node := pick(m, places(&n)...)
-			switch m.Intn(5) {
-			case 0:
-				node.Kind = m.Intn(24) - 1
-			case 1:
-				node.Text = pick(m, texts...)
-			case 2:
-				node.Num = pick(m, numbers...)
-			case 3:
-				node.Kids = append(slices.Clone(node.Kids), copied(*pick(m, places(&n)...)))
-			case 4:
-				node.Kids = node.Kids[:m.Intn(len(node.Kids)+1)]
-			}
+			m.Change(&n)
 		}
 		s := pick(m, setup, setup, setup, api.Setup{P: pick(m, numbers...), N: m.Intn(15), T: m.Intn(4)})
 		e := check.Check(s, n)
@@ -92,7 +80,7 @@ func TestLongChain(t *testing.T) {
 	n := parsed(t, "def p0() { return 1; }")
 	for i := range 4900 {
 		name := "p" + decimal(i)
-		def := copied(parsed(t, "def q() { return "+name+"(); }").Kids[0])
+		def := sample.Copy(parsed(t, "def q() { return "+name+"(); }").Kids[0])
 		def.Text = "p" + decimal(i+1)
 		n.Kids = append(n.Kids, def)
 	}

@@ -7,6 +7,7 @@ import (
 
 	"junto/api"
 	"junto/check"
+	"junto/sample"
 )
 
 // randomInputs returns values for slots.
@@ -32,8 +33,8 @@ func TestNoninterference(t *testing.T) {
 	accepted, branches := 0, 0
 	for i := 0; accepted < 1200; i++ {
 		m := newMaker(int64(i), 1000000)
-		m.leaky = 4 + m.Intn(20)
-		text := m.in() + m.in() + m.program()
+		m.Leaky = 4 + m.Intn(20)
+		text := m.In() + m.In() + m.Program()
 		n := parsed(t, text)
 		slots, e := check.Slots(setup, n)
 		if e != api.OK {
@@ -61,7 +62,7 @@ func TestNoninterference(t *testing.T) {
 
 // renamed returns a program with its names replaced one to one.
 func renamed(m *maker, n api.Node) api.Node {
-	n = copied(n)
+	n = sample.Copy(n)
 	names := map[string]string{}
 	taken := map[string]bool{"mux": true, "sort": true, "secret": true, "len": true}
 	for name := range taken {
@@ -71,7 +72,7 @@ func renamed(m *maker, n api.Node) api.Node {
 		taken[word] = true
 		names[word] = word
 	}
-	for _, place := range places(&n) {
+	for _, place := range sample.Nodes(&n) {
 		if !hasName(place) {
 			continue
 		}
@@ -92,7 +93,7 @@ func TestRenaming(t *testing.T) {
 	accepted := 0
 	for i := range 1200 {
 		m := newMaker(int64(i), 100)
-		n := parsed(t, m.program())
+		n := parsed(t, m.Program())
 		other := renamed(m, n)
 		e := check.Check(setup, n)
 		if e == api.OK {
